@@ -1,0 +1,1 @@
+"""What builds upon what: which copies a copy needs."""
