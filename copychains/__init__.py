@@ -1,1 +1,1 @@
-"""What builds upon what: which copies a copy needs."""
+"""What builds upon what: which copies a copy needs, and which some need together."""

@@ -4,6 +4,7 @@ In a row, 0 says that a copy stands by itself; k above 0, that it builds upon nu
 """
 
 MOST_COPIES = 64
+MOST_WANTED = 64
 
 
 def row_is_sound(row):
@@ -13,6 +14,17 @@ def row_is_sound(row):
     for number, upon in enumerate(row):
         # upon is one more than the number meant, so a copy upon itself has number + 1 here.
         if upon > number:
+            return False
+    return True
+
+
+def want_is_sound(row, want):
+    """Tell whether few enough numbers are wanted, and there is a copy of each."""
+    # Counted as they stand: one number wanted again and again counts each time.
+    if len(want) > MOST_WANTED:
+        return False
+    for number in want:
+        if number >= len(row):
             return False
     return True
 
@@ -32,3 +44,21 @@ def chain(i, row):
         links.append(at)
     links.reverse()
     return [len(links)] + links
+
+
+def needed(row, want):
+    """Give how many copies those wanted need together, then these, rising."""
+    # -22 holds for every call and so comes ahead of what a call refuses by itself.
+    if not row_is_sound(row):
+        return [-22]
+    if not want_is_sound(row, want):
+        return [-2]
+    marks = [False] * len(row)
+    for number in want:
+        marks[number] = True
+    # From the last one down, once is enough: in a sound row only later ones can build upon a copy.
+    for number in range(len(row) - 1, -1, -1):
+        if marks[number] and row[number] > 0:
+            marks[row[number] - 1] = True
+    numbers = [number for number in range(len(row)) if marks[number]]
+    return [len(numbers)] + numbers
