@@ -1,1 +1,1 @@
-"""What builds upon what: which copies a copy needs, and which some need together."""
+"""What builds upon what: which copies a copy needs, which some need together, and which are lost with one."""

@@ -1,4 +1,4 @@
-"""Copies in the order in which they were made, and what each of them needs.
+"""Copies in the order in which they were made, what each of them needs, and what needs it.
 
 In a row, 0 says that a copy stands by itself; k above 0, that it builds upon number k - 1.
 """
@@ -61,4 +61,22 @@ def needed(row, want):
         if marks[number] and row[number] > 0:
             marks[row[number] - 1] = True
     numbers = [number for number in range(len(row)) if marks[number]]
+    return [len(numbers)] + numbers
+
+
+def above(i, row):
+    """Give how many other copies need number i, then these, rising."""
+    # -22 holds for every call and so comes ahead of what a call refuses by itself.
+    if not row_is_sound(row):
+        return [-22]
+    if i >= len(row):
+        return [-2]
+    marks = [False] * len(row)
+    marks[i] = True
+    # From i up, once is enough: in a sound row what a copy builds upon is marked ahead of it.
+    for number in range(i + 1, len(row)):
+        # One that stands by itself has 0 here, and 0 - 1 is no copy's number.
+        if row[number] > 0 and marks[row[number] - 1]:
+            marks[number] = True
+    numbers = [number for number in range(i + 1, len(row)) if marks[number]]
     return [len(numbers)] + numbers
